@@ -2,11 +2,12 @@ package rules
 
 import (
 	"go/ast"
+	"go/types"
 	"path/filepath"
 	"testing"
 )
 
-// functionOf a package of the program.
+// functionOf a package of the program, or a method of that name.
 func functionOf(t *testing.T, pack, name string) *ast.FuncDecl {
 	t.Helper()
 	for _, s := range sources(t) {
@@ -14,7 +15,7 @@ func functionOf(t *testing.T, pack, name string) *ast.FuncDecl {
 			continue
 		}
 		for _, d := range s.file.Decls {
-			if f, ok := d.(*ast.FuncDecl); ok && f.Recv == nil && f.Name.Name == name {
+			if f, ok := d.(*ast.FuncDecl); ok && f.Name.Name == name {
 				return f
 			}
 		}
@@ -52,11 +53,67 @@ func isClosure(n ast.Node) bool {
 	return ok
 }
 
+// isRangeOverCallOf a function, by its name with its package's: what a library's answers is a function that is ranged over.
+func isRangeOverCallOf(name string) func(ast.Node) bool {
+	return func(n ast.Node) bool {
+		r, ok := n.(*ast.RangeStmt)
+		if !ok {
+			return false
+		}
+		c, ok := r.X.(*ast.CallExpr)
+		return ok && types.ExprString(c.Fun) == name
+	}
+}
+
+// isCallOf a function, by its name.
+func isCallOf(name string) func(ast.Node) bool {
+	return func(n ast.Node) bool {
+		c, ok := n.(*ast.CallExpr)
+		return ok && types.ExprString(c.Fun) == name
+	}
+}
+
+// fieldOf a struct of a package: its type, as it is written.
+func fieldOf(t *testing.T, pack, name, field string) string {
+	t.Helper()
+	found := ""
+	for _, s := range sources(t) {
+		if filepath.Base(filepath.Dir(s.path)) != pack {
+			continue
+		}
+		ast.Inspect(s.file, func(n ast.Node) bool {
+			of, ok := n.(*ast.TypeSpec)
+			if !ok || of.Name.Name != name {
+				return true
+			}
+			for _, f := range of.Type.(*ast.StructType).Fields.List {
+				if len(f.Names) == 1 && f.Names[0].Name == field {
+					found = types.ExprString(f.Type)
+				}
+			}
+			return false
+		})
+	}
+	return found
+}
+
 func TestWaysOfStage1(t *testing.T) {
 	if !has(functionOf(t, "row", "Name"), isRangeOverLength) {
 		t.Error("Ways, stage 1: the bytes of a name are no range over an integer")
 	}
 	if !has(functionOf(t, "span", "Any"), isClosure) {
 		t.Error("Ways, stage 1: spans aren't looked through by a closure")
+	}
+}
+
+func TestWaysOfStage2(t *testing.T) {
+	if of := fieldOf(t, "versions", "Versions", "rows"); of != "map[string][]version" {
+		t.Errorf("Ways, stage 2: versions stand in %q, not in a map", of)
+	}
+	if !has(functionOf(t, "versions", "Vacuum"), isCallOf("delete")) {
+		t.Error("Ways, stage 2: nothing is deleted from the map")
+	}
+	if !has(functionOf(t, "versions", "last"), isRangeOverCallOf("slices.Backward")) {
+		t.Error("Ways, stage 2: versions aren't gone over backwards by a range over a function")
 	}
 }
