@@ -117,3 +117,9 @@ func TestWaysOfStage2(t *testing.T) {
 		t.Error("Ways, stage 2: versions aren't gone over backwards by a range over a function")
 	}
 }
+
+func TestWaysOfStage3(t *testing.T) {
+	if !has(functionOf(t, "view", "place"), isClosure) {
+		t.Error("Ways, stage 3: a row's place isn't found by a closure")
+	}
+}
