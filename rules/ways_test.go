@@ -4,6 +4,7 @@ import (
 	"go/ast"
 	"go/types"
 	"path/filepath"
+	"slices"
 	"testing"
 )
 
@@ -73,6 +74,21 @@ func isCallOf(name string) func(ast.Node) bool {
 	}
 }
 
+// isStepsOfMethods: a list of functions that are methods as values, all of them by these names.
+func isStepsOfMethods(names ...string) func(ast.Node) bool {
+	return func(n ast.Node) bool {
+		l, ok := n.(*ast.CompositeLit)
+		if !ok || types.ExprString(l.Type) != "[]func() error" {
+			return false
+		}
+		var given []string
+		for _, e := range l.Elts {
+			given = append(given, types.ExprString(e))
+		}
+		return !slices.ContainsFunc(names, func(name string) bool { return !slices.Contains(given, name) })
+	}
+}
+
 // fieldOf a struct of a package: its type, as it is written.
 func fieldOf(t *testing.T, pack, name, field string) string {
 	t.Helper()
@@ -121,5 +137,19 @@ func TestWaysOfStage2(t *testing.T) {
 func TestWaysOfStage3(t *testing.T) {
 	if !has(functionOf(t, "view", "place"), isClosure) {
 		t.Error("Ways, stage 3: a row's place isn't found by a closure")
+	}
+}
+
+func TestWaysOfStage4(t *testing.T) {
+	for _, name := range []string{"Write", "Flush", "Restart"} {
+		if !has(functionOf(t, "disk", name), isCallOf("copy")) {
+			t.Errorf("Ways, stage 4: sectors aren't copied by %s", name)
+		}
+	}
+	if !has(functionOf(t, "log", "run"), isStepsOfMethods("a.cut", "a.layRest", "a.layEnd", "a.layFirst")) {
+		t.Error("Ways, stage 4: the steps of adding a deed are no methods as values")
+	}
+	if !has(functionOf(t, "store", "layText"), isRangeOverCallOf("slices.Chunk")) {
+		t.Error("Ways, stage 4: all rows aren't cut by a range over a function")
 	}
 }
