@@ -8,7 +8,8 @@ type adding struct {
 	sectors []string
 }
 
-// run the steps. A flush stands between any two: of what isn't flushed any part may be lost.
+// run the steps. Of what isn't flushed any part may be lost: so the rest is laid only behind a flush of the cut,
+// and the first sector only behind a flush of the rest.
 func (a adding) run() error {
 	flush := a.log.disk.Flush
 	for _, step := range []func() error{a.cut, flush, a.layRest, a.layEnd, flush, a.layFirst, flush} {
