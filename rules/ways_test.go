@@ -153,3 +153,12 @@ func TestWaysOfStage4(t *testing.T) {
 		t.Error("Ways, stage 4: all rows aren't cut by a range over a function")
 	}
 }
+
+func TestWaysOfStage5(t *testing.T) {
+	for _, name := range []string{"Send", "Receive"} {
+		f := functionOf(t, "queue", name)
+		if !has(f, isCallOf("whole")) || !has(f, isClosure) {
+			t.Errorf("Ways, stage 5: what is all or nothing in %s is no closure", name)
+		}
+	}
+}
