@@ -162,3 +162,9 @@ func TestWaysOfStage5(t *testing.T) {
 		}
 	}
 }
+
+func TestWaysOfStage6(t *testing.T) {
+	if of := fieldOf(t, "engine", "Engine", "sessions"); of != "[api.Sessions]*view.View" {
+		t.Errorf("Ways, stage 6: sessions stand in %q, not in an array", of)
+	}
+}
