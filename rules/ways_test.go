@@ -113,6 +113,14 @@ func fieldOf(t *testing.T, pack, name, field string) string {
 	return found
 }
 
+// isAssertionTo a type, by its name.
+func isAssertionTo(name string) func(ast.Node) bool {
+	return func(n ast.Node) bool {
+		a, ok := n.(*ast.TypeAssertExpr)
+		return ok && a.Type != nil && types.ExprString(a.Type) == name
+	}
+}
+
 func TestWaysOfStage1(t *testing.T) {
 	if !has(functionOf(t, "row", "Name"), isRangeOverLength) {
 		t.Error("Ways, stage 1: the bytes of a name are no range over an integer")
@@ -166,5 +174,11 @@ func TestWaysOfStage5(t *testing.T) {
 func TestWaysOfStage6(t *testing.T) {
 	if of := fieldOf(t, "engine", "Engine", "sessions"); of != "[api.Sessions]*view.View" {
 		t.Errorf("Ways, stage 6: sessions stand in %q, not in an array", of)
+	}
+}
+
+func TestWaysOfStage7(t *testing.T) {
+	if !has(functionOf(t, "console", "errorText"), isAssertionTo("api.Errno")) {
+		t.Error("Ways, stage 7: an error's number isn't told by an assertion")
 	}
 }
